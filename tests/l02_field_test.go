@@ -112,6 +112,7 @@ func TestInverses(t *testing.T) {
 }
 
 func TestPowersWithSmallExponents(t *testing.T) {
+	t.Parallel()
 	for _, p := range allPrimes() {
 		for a := range p {
 			power := int64(1)
@@ -160,6 +161,7 @@ func TestPowersOfZero(t *testing.T) {
 }
 
 func TestOrdersAndLogarithms(t *testing.T) {
+	t.Parallel()
 	for _, p := range allPrimes() {
 		for base := int64(1); base < p; base++ {
 			// The exponents are found by going through the powers, up to the first 1.

@@ -102,6 +102,7 @@ func fieldResults() []any {
 }
 
 func TestFieldReturnsEqualResults(t *testing.T) {
+	t.Parallel()
 	if first, second := fieldResults(), fieldResults(); !reflect.DeepEqual(first, second) {
 		t.Error("the same calls have returned other results")
 	}
