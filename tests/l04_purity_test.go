@@ -183,6 +183,41 @@ func spaceLists(a, b impl.Space, m impl.Matrix, x []int64) (vectors map[string][
 	return vectors, lists
 }
 
+// checkNewMemory spoils each list that a call returns, up to its capacity; what was given, and all other lists, must be left.
+func checkNewMemory(t *testing.T, call func() (map[string][]int64, map[string][][]int64), checkGiven func(when string)) {
+	t.Helper()
+	want, wantLists := call()
+	check := func(what string, vectors map[string][]int64, lists map[string][][]int64) {
+		t.Helper()
+		when := " after a change of " + what
+		for other, vector := range vectors {
+			checkEqual(t, other+when, vector, want[other])
+		}
+		for other, list := range lists {
+			checkEqual(t, other+when, list, wantLists[other])
+		}
+		checkGiven(when)
+		again, againLists := call()
+		checkEqual(t, "all vectors"+when, again, want)
+		checkEqual(t, "all lists"+when, againLists, wantLists)
+	}
+	for what := range want {
+		vectors, _ := call()
+		spoilt := vectors[what][:cap(vectors[what])]
+		for i := range spoilt {
+			spoilt[i] = 99
+		}
+		delete(vectors, what)
+		check(what, vectors, nil)
+	}
+	for what := range wantLists {
+		vectors, lists := call()
+		clear(lists[what][:cap(lists[what])])
+		delete(lists, what)
+		check(what, vectors, lists)
+	}
+}
+
 // TestSpacesReturnNewMemory takes arguments whose results equal them, where a function might return them themselves.
 func TestSpacesReturnNewMemory(t *testing.T) {
 	basis, wholeBasis := spareLists(fullSpace(5, 3).Basis)
@@ -192,36 +227,12 @@ func TestSpacesReturnNewMemory(t *testing.T) {
 	call := func() (map[string][]int64, map[string][][]int64) {
 		return spaceLists(spaceOf(5, 3, basis...), spaceOf(5, 3), matrixOf(5, 3, 3, cells...), x)
 	}
-	want, wantLists := call()
-	check := func(what string, vectors map[string][]int64, lists map[string][][]int64) {
-		for other, vector := range vectors {
-			checkEqual(t, other+" after a change of "+what, vector, want[other])
-		}
-		checkLeft(t, "the Basis after a change of "+what, basis, wholeBasis, before)
-		checkEqual(t, "the cells after a change of "+what, wholeCells, append(slices.Clone(unitOf(5, 3).Cells), 77, 78, 79))
-		checkEqual(t, "the vector after a change of "+what, wholeX, []int64{0, 1, 2, 77, 78, 79})
-		again, againLists := call()
-		checkEqual(t, "all vectors after a change of "+what, again, want)
-		checkEqual(t, "all lists after a change of "+what, againLists, wantLists)
-	}
-	checkEqual(t, "the number of lists", len(wantLists), 10)
-	for what := range want {
-		vectors, lists := call()
-		// Each vector is spoilt up to its capacity.
-		spoilt := vectors[what][:cap(vectors[what])]
-		for i := range spoilt {
-			spoilt[i] = 99
-		}
-		delete(vectors, what)
-		check(what, vectors, lists)
-	}
-	for what := range wantLists {
-		vectors, lists := call()
-		clear(lists[what][:cap(lists[what])])
-		delete(lists, what)
-		for other, list := range lists {
-			checkEqual(t, other+" after a change of "+what, list, wantLists[other])
-		}
-		check(what, vectors, lists)
-	}
+	_, lists := call()
+	checkEqual(t, "the number of lists", len(lists), 10)
+	checkNewMemory(t, call, func(when string) {
+		t.Helper()
+		checkLeft(t, "the Basis"+when, basis, wholeBasis, before)
+		checkEqual(t, "the cells"+when, wholeCells, append(slices.Clone(unitOf(5, 3).Cells), 77, 78, 79))
+		checkEqual(t, "the vector"+when, wholeX, []int64{0, 1, 2, 77, 78, 79})
+	})
 }
