@@ -2,6 +2,7 @@ package tests
 
 import (
 	"math"
+	"math/rand"
 	"reflect"
 	"slices"
 	"testing"
@@ -50,4 +51,17 @@ func allTexts(alphabet string, most int) []string {
 		last = next
 	}
 	return texts
+}
+
+// changedText changes, adds or removes a byte of a text that is not empty.
+func changedText(r *rand.Rand, text, alphabet string) string {
+	place, changed := r.Intn(len(text)), string(alphabet[r.Intn(len(alphabet))])
+	switch r.Intn(3) {
+	case 0:
+		return text[:place] + changed + text[place+1:]
+	case 1:
+		return text[:place] + changed + text[place:]
+	default:
+		return text[:place] + text[place+1:]
+	}
 }

@@ -144,22 +144,13 @@ func TestChangedComplexTexts(t *testing.T) {
 	}
 	read := 0
 	for range 20000 {
-		text := []byte(texts[r.Intn(len(texts))])
-		place, changed := r.Intn(len(text)), "0123456789,/- "[r.Intn(14)]
-		switch r.Intn(3) {
-		case 0:
-			text[place] = changed
-		case 1:
-			text = slices.Insert(text, place, changed)
-		case 2:
-			text = slices.Delete(text, place, place+1)
-		}
-		c, ok := impl.ReadComplex(string(text))
+		text := changedText(r, texts[r.Intn(len(texts))], "0123456789,/- ")
+		c, ok := impl.ReadComplex(text)
 		if !ok {
-			checkNoComplexText(t, string(text))
+			checkNoComplexText(t, text)
 			continue
 		}
-		checkEqual(t, "the text of what is read", complexTextOf(c), string(text))
+		checkEqual(t, "the text of what is read", complexTextOf(c), text)
 		checkEqual(t, "whether it is a complex", isComplex(c.Simplices), true)
 		read++
 	}
