@@ -19,6 +19,14 @@ func checkEqual[T any](t *testing.T, what string, got, want T) {
 	}
 }
 
+// checkEqualResults makes the same calls twice.
+func checkEqualResults(t *testing.T, call func() []any) {
+	t.Helper()
+	if first, second := call(), call(); !reflect.DeepEqual(first, second) {
+		t.Error("the same calls have returned other results")
+	}
+}
+
 // extremeNumbers returns numbers around all limits that chapter 1 names, and the ends of int64.
 func extremeNumbers() []int64 {
 	middles := []int64{0, 12, 65535, 1000000, 1000000000000, 999999999999999999, 3037000499, math.MaxInt32, math.MaxInt64 - 1}

@@ -3,7 +3,6 @@ package tests
 import (
 	"fmt"
 	"maps"
-	"reflect"
 	"slices"
 	"testing"
 
@@ -81,9 +80,7 @@ func spaceResults() []any {
 
 func TestSpacesReturnEqualResults(t *testing.T) {
 	t.Parallel()
-	if first, second := spaceResults(), spaceResults(); !reflect.DeepEqual(first, second) {
-		t.Error("the same calls have returned other results")
-	}
+	checkEqualResults(t, spaceResults)
 }
 
 // spareLists returns a list of the same lists with unused capacity, in all of them and behind them, and the whole memory behind it.
@@ -151,12 +148,7 @@ func TestSpacesAreLeft(t *testing.T) {
 // spaceLists calls all functions of chapter 4 that return memory, and returns each vector, and the list of them, by a name.
 func spaceLists(a, b impl.Space, m impl.Matrix, x []int64) (vectors map[string][]int64, lists map[string][][]int64) {
 	vectors, lists = map[string][]int64{}, map[string][][]int64{}
-	keep := func(what string, list [][]int64) {
-		lists[what] = list
-		for i, vector := range list {
-			vectors[fmt.Sprint(what, ", vector ", i)] = vector
-		}
-	}
+	keep := func(what string, list [][]int64) { keepMemory(vectors, lists, what, list) }
 	space := func(what string) func(impl.Space, int64) {
 		return func(v impl.Space, _ int64) { keep(what, v.Basis) }
 	}
@@ -181,6 +173,23 @@ func spaceLists(a, b impl.Space, m impl.Matrix, x []int64) (vectors map[string][
 	read, _ := impl.ReadSpace("5 2/1,0/0,1")
 	keep("ReadSpace", read.Basis)
 	return vectors, lists
+}
+
+// keepMemory adds the lists of numbers of a result, and its list of them, to those that are known by names.
+func keepMemory(vectors map[string][]int64, lists map[string][][]int64, what string, result any) {
+	switch value := result.(type) {
+	case impl.Matrix:
+		vectors[what] = value.Cells
+	case []int64:
+		vectors[what] = value
+	case impl.Complex:
+		lists[what] = value.Simplices
+	case [][]int64:
+		lists[what] = value
+	}
+	for i, list := range lists[what] {
+		vectors[fmt.Sprint(what, ", list ", i)] = list
+	}
 }
 
 // checkNewMemory spoils each list that a call returns, up to its capacity; what was given, and all other lists, must be left.

@@ -3,7 +3,6 @@ package tests
 import (
 	"fmt"
 	"math"
-	"reflect"
 	"slices"
 	"testing"
 
@@ -73,9 +72,7 @@ func posetResults() []any {
 
 func TestPosetsReturnEqualResults(t *testing.T) {
 	t.Parallel()
-	if first, second := posetResults(), posetResults(); !reflect.DeepEqual(first, second) {
-		t.Error("the same calls have returned other results")
-	}
+	checkEqualResults(t, posetResults)
 }
 
 func TestPosetsAreLeft(t *testing.T) {
@@ -108,12 +105,7 @@ func TestPairsAreLeft(t *testing.T) {
 // posetMemory calls all functions of chapter 6 that return memory, and returns each list of numbers, and each one of pairs, by a name.
 func posetMemory(p impl.Poset, list []int64) (vectors map[string][]int64, lists map[string][][]int64) {
 	vectors, lists = map[string][]int64{}, map[string][][]int64{}
-	keep := func(what string, p impl.Poset) {
-		lists[what] = p.Covers
-		for i, pair := range p.Covers {
-			vectors[fmt.Sprint(what, ", pair ", i)] = pair
-		}
-	}
+	keep := func(what string, p impl.Poset) { keepMemory(vectors, lists, what, p.Covers) }
 	made, _ := impl.PosetOf(p.Size, p.Covers)
 	keep("PosetOf", made)
 	dual, _ := impl.DualPoset(p)

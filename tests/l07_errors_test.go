@@ -47,8 +47,12 @@ func chainReports() map[string]func(c impl.Complex, k, p int64, chain []int64) b
 // isZeroResult reports whether a result is the zero value.
 func isZeroResult(result any) bool {
 	switch value := result.(type) {
+	case int64:
+		return value == 0
 	case impl.Matrix:
 		return equalMatrices(value, impl.Matrix{})
+	case impl.Complex:
+		return equalComplexes(value, impl.Complex{})
 	case []int64:
 		return len(value) == 0
 	case [][]int64:

@@ -8,12 +8,15 @@ import (
 	"loop.example/g01005/impl"
 )
 
-// bettiNumbersOf counts columns that are no pivots, and the pivots of the next degree.
+// betti counts columns that are no pivots, and the pivots of the next degree.
+func (l level) betti() int64 {
+	return int64(len(l.free)) - (l.up.Columns - int64(len(l.freeAbove)))
+}
+
 func bettiNumbersOf(c impl.Complex, p int64) []int64 {
 	var numbers []int64
 	for k := range int64(impl.MaxDimension + 1) {
-		l := levelOf(c, k, p)
-		numbers = append(numbers, int64(len(l.free))-(l.up.Columns-int64(len(l.freeAbove))))
+		numbers = append(numbers, levelOf(c, k, p).betti())
 	}
 	return numbers
 }

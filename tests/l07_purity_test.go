@@ -3,7 +3,6 @@ package tests
 import (
 	"fmt"
 	"math"
-	"reflect"
 	"slices"
 	"testing"
 
@@ -61,9 +60,7 @@ func chainResults() []any {
 
 func TestChainsReturnEqualResults(t *testing.T) {
 	t.Parallel()
-	if first, second := chainResults(), chainResults(); !reflect.DeepEqual(first, second) {
-		t.Error("the same calls have returned other results")
-	}
+	checkEqualResults(t, chainResults)
 }
 
 func TestChainsAreLeft(t *testing.T) {
@@ -90,19 +87,7 @@ func TestChainsAreLeft(t *testing.T) {
 // chainMemory calls all functions of chapter 7 that return memory, in each degree, and returns each list of numbers, and each one of cycles, by a name.
 func chainMemory(c impl.Complex, chains [][]int64, path []int64) (vectors map[string][]int64, lists map[string][][]int64) {
 	vectors, lists = map[string][]int64{}, map[string][][]int64{}
-	keep := func(what string, result any) {
-		switch value := result.(type) {
-		case impl.Matrix:
-			vectors[what] = value.Cells
-		case []int64:
-			vectors[what] = value
-		case [][]int64:
-			lists[what] = value
-			for i, cycle := range value {
-				vectors[fmt.Sprint(what, ", cycle ", i)] = cycle
-			}
-		}
-	}
+	keep := func(what string, result any) { keepMemory(vectors, lists, what, result) }
 	for k, chain := range chains {
 		for _, calls := range []map[string]chainCall{degreeCalls(), chainCalls()} {
 			for what, call := range calls {

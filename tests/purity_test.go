@@ -3,7 +3,6 @@ package tests
 import (
 	"maps"
 	"math"
-	"reflect"
 	"slices"
 	"strings"
 	"testing"
@@ -38,9 +37,7 @@ func basicsResults() []any {
 }
 
 func TestBasicsReturnEqualResults(t *testing.T) {
-	if first, second := basicsResults(), basicsResults(); !reflect.DeepEqual(first, second) {
-		t.Error("the same calls have returned other results")
-	}
+	checkEqualResults(t, basicsResults)
 }
 
 func TestListTextLeavesItsArgument(t *testing.T) {
@@ -103,9 +100,7 @@ func fieldResults() []any {
 
 func TestFieldReturnsEqualResults(t *testing.T) {
 	t.Parallel()
-	if first, second := fieldResults(), fieldResults(); !reflect.DeepEqual(first, second) {
-		t.Error("the same calls have returned other results")
-	}
+	checkEqualResults(t, fieldResults)
 }
 
 func TestFieldLeavesItsArguments(t *testing.T) {
@@ -215,9 +210,7 @@ func matrixResults() []any {
 }
 
 func TestMatricesReturnEqualResults(t *testing.T) {
-	if first, second := matrixResults(), matrixResults(); !reflect.DeepEqual(first, second) {
-		t.Error("the same calls have returned other results")
-	}
+	checkEqualResults(t, matrixResults)
 }
 
 func TestMatricesAreLeft(t *testing.T) {
